@@ -88,8 +88,12 @@ func keptRacks() []impl.Rack {
 	}
 }
 
-func TestP10RacksShareNoMemory(t *testing.T) {
-	for name, f := range rackFunctions() {
+func TestP10RacksShareNoMemory(t *testing.T) { checkRackFunctions(t, rackFunctions()) }
+
+// checkRackFunctions changes what functions that make a rack of one are given, and what they return.
+func checkRackFunctions(t *testing.T, functions map[string]func(r impl.Rack) (impl.Rack, bool)) {
+	t.Helper()
+	for name, f := range functions {
 		done := 0
 		for _, made := range keptRacks() {
 			r, same := roomyRack(made)
@@ -118,9 +122,14 @@ func TestP10RacksShareNoMemory(t *testing.T) {
 	}
 }
 
-// TestP10ModulesOfRacksShareNoMemory has racks all of whose modules share their memory, which those of results do not.
 func TestP10ModulesOfRacksShareNoMemory(t *testing.T) {
-	for name, f := range rackFunctions() {
+	checkModulesOfRacks(t, rackFunctions())
+}
+
+// checkModulesOfRacks has racks all of whose modules share their memory, which those of results do not.
+func checkModulesOfRacks(t *testing.T, functions map[string]func(r impl.Rack) (impl.Rack, bool)) {
+	t.Helper()
+	for name, f := range functions {
 		for _, shared := range []impl.Module{delayOf(1, 2i, 3, 4), slicerOf(5, 6, 7i)} {
 			r := impl.Rack{Modules: []impl.Module{shared, shared, shared, shared}, Cables: cablesOf(2, 3)}
 			if shared.Kind == 4 {
