@@ -116,9 +116,12 @@ func copyOfLists(lists [][]complex64) [][]complex64 {
 	return copies
 }
 
-// TestP10OutputsShareNoMemory changes one list of a result after the other, and also what was given.
-func TestP10OutputsShareNoMemory(t *testing.T) {
-	for name, f := range hearings() {
+func TestP10OutputsShareNoMemory(t *testing.T) { checkHearings(t, hearings()) }
+
+// checkHearings changes one list of a result after the other, and also what was given.
+func checkHearings(t *testing.T, functions map[string]func(r impl.Rack, input []complex64) [][]complex64) {
+	t.Helper()
+	for name, f := range functions {
 		for _, made := range keptRacks() {
 			r, same := roomyRack(made)
 			input, sameInput := roomySamples(samples(3, 4-1i, 5i))

@@ -19,11 +19,12 @@ func sumOver(list []complex64) complex64 {
 	return complex(forward(reals), forward(imags))
 }
 
-// plainStep is a step that is found without an order: whoever needs an output asks for it.
+// plainStep is a step that is found without an order: whoever needs an output asks for it, and gets what it becomes.
 type plainStep struct {
 	before  impl.Rack
 	in      int
 	sample  complex64
+	becomes func(i int, z complex64) complex64
 	after   []impl.Module
 	outputs []complex64
 	done    []bool
@@ -31,10 +32,10 @@ type plainStep struct {
 
 func (s *plainStep) output(i int) complex64 {
 	if m := s.before.Modules[i]; m.Kind == 4 {
-		return m.Ring.Store[m.Ring.At]
+		return s.becomes(i, m.Ring.Store[m.Ring.At])
 	}
 	s.take(i)
-	return s.outputs[i]
+	return s.becomes(i, s.outputs[i])
 }
 
 func (s *plainStep) take(i int) {
@@ -54,12 +55,19 @@ func (s *plainStep) take(i int) {
 
 // steppedRack returns a valid rack after a step, and the outputs of all modules.
 func steppedRack(r impl.Rack, in int, sample complex64) (impl.Rack, []complex64) {
+	return alteredStep(r, in, sample, func(i int, z complex64) complex64 { return z })
+}
+
+// alteredStep is steppedRack where outputs become others.
+func alteredStep(r impl.Rack, in int, sample complex64, becomes func(i int, z complex64) complex64) (impl.Rack, []complex64) {
 	n := len(r.Modules)
-	s := plainStep{before: r, in: in, sample: sample, after: make([]impl.Module, n), outputs: make([]complex64, n), done: make([]bool, n)}
+	s := plainStep{before: r, in: in, sample: sample, becomes: becomes, after: make([]impl.Module, n), outputs: make([]complex64, n), done: make([]bool, n)}
+	outputs := make([]complex64, n)
 	for i := range n {
 		s.take(i)
+		outputs[i] = s.output(i)
 	}
-	return impl.Rack{Modules: s.after, Cables: r.Cables}, s.outputs
+	return impl.Rack{Modules: s.after, Cables: r.Cables}, outputs
 }
 
 // ranRack is what RunRack should return, for a rack, a plug and a number of steps that are valid.
